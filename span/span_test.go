@@ -6,41 +6,11 @@ import (
 	"testing"
 
 	"winnower/api"
+	"winnower/sample"
 )
 
-// to is the range of the texts from lo on, ahead of hi.
-func to(lo, hi string) api.Range {
-	return api.Range{Lo: lo, Hi: hi}
-}
-
-// from is the range of all texts from lo on.
-func from(lo string) api.Range {
-	return api.Range{Lo: lo, Open: true}
-}
-
-// long is a letter, n times.
-func long(letter string, n int) string {
-	return strings.Repeat(letter, n)
-}
-
-// wrong are ranges that aren't right, each for another reason.
-func wrong() []api.Range {
-	return []api.Range{
-		{},
-		// A Hi that isn't behind Lo.
-		to("a", ""), to("a", "a"), to("b", "a"), to("a\x00", "a"), to("\xff", "\xfe"), to("\x00", ""), to("\x80", "\x7f"),
-		to("", ""), to(long("k", 17), long("k", 17)), to(long("k", 17), long("k", 16)),
-		// An Open one, whose Hi isn't empty.
-		{Lo: "a", Hi: "b", Open: true}, {Lo: "a", Hi: "a", Open: true}, {Lo: "b", Hi: "a", Open: true},
-		{Hi: "a", Open: true}, {Hi: "\x00", Open: true}, {Lo: "a", Hi: "\xff", Open: true}, {Hi: long("k", 18), Open: true},
-		// A Lo that is too long.
-		to(long("a", 18), "b"), to(long("a", 1000), "b"), to(long("\x00", 18), "\xff"), from(long("a", 18)), from(long("\xff", 18)),
-		// A Hi that is too long.
-		to("a", long("b", 18)), to("", long("\x00", 18)), to("a", long("\xff", 1000)), to(long("a", 17), long("a", 18)),
-		// Both.
-		to(long("a", 18), long("b", 18)), {Lo: long("a", 18), Hi: long("b", 18), Open: true},
-	}
-}
+// What ranges are made by here: the tests of several layers have it together.
+var to, from, long, wrong, all = sample.To, sample.From, sample.Long, sample.Wrong, sample.All
 
 // edges are texts by which ranges begin and end, in order: some are too long for it.
 func edges() []string {
@@ -63,17 +33,6 @@ func probes() []string {
 	}
 	slices.Sort(l)
 	return slices.Compact(l)
-}
-
-// all are the ranges, right or not, from each of some texts to each, Open and not.
-func all(edges []string) []api.Range {
-	var l []api.Range
-	for _, lo := range edges {
-		for _, hi := range edges {
-			l = append(l, to(lo, hi), api.Range{Lo: lo, Hi: hi, Open: true})
-		}
-	}
-	return l
 }
 
 // rightByWords is what the chapter says that a right range is.

@@ -1,0 +1,53 @@
+// Package sample has texts and ranges that the tests of several layers ask about.
+package sample
+
+import (
+	"strings"
+
+	"winnower/api"
+)
+
+// To is the range of the texts from lo on, ahead of hi.
+func To(lo, hi string) api.Range {
+	return api.Range{Lo: lo, Hi: hi}
+}
+
+// From is the range of all texts from lo on.
+func From(lo string) api.Range {
+	return api.Range{Lo: lo, Open: true}
+}
+
+// Long is a letter, n times.
+func Long(letter string, n int) string {
+	return strings.Repeat(letter, n)
+}
+
+// Wrong are ranges that aren't right, each for another reason.
+func Wrong() []api.Range {
+	return []api.Range{
+		{},
+		// A Hi that isn't behind Lo.
+		To("a", ""), To("a", "a"), To("b", "a"), To("a\x00", "a"), To("\xff", "\xfe"), To("\x00", ""), To("\x80", "\x7f"),
+		To("", ""), To(Long("k", 17), Long("k", 17)), To(Long("k", 17), Long("k", 16)),
+		// An Open one, whose Hi isn't empty.
+		{Lo: "a", Hi: "b", Open: true}, {Lo: "a", Hi: "a", Open: true}, {Lo: "b", Hi: "a", Open: true},
+		{Hi: "a", Open: true}, {Hi: "\x00", Open: true}, {Lo: "a", Hi: "\xff", Open: true}, {Hi: Long("k", 18), Open: true},
+		// A Lo that is too long.
+		To(Long("a", 18), "b"), To(Long("a", 1000), "b"), To(Long("\x00", 18), "\xff"), From(Long("a", 18)), From(Long("\xff", 18)),
+		// A Hi that is too long.
+		To("a", Long("b", 18)), To("", Long("\x00", 18)), To("a", Long("\xff", 1000)), To(Long("a", 17), Long("a", 18)),
+		// Both.
+		To(Long("a", 18), Long("b", 18)), {Lo: Long("a", 18), Hi: Long("b", 18), Open: true},
+	}
+}
+
+// All are the ranges, right or not, from each of some texts to each, Open and not.
+func All(edges []string) []api.Range {
+	var l []api.Range
+	for _, lo := range edges {
+		for _, hi := range edges {
+			l = append(l, To(lo, hi), api.Range{Lo: lo, Hi: hi, Open: true})
+		}
+	}
+	return l
+}
