@@ -31,29 +31,9 @@ func rightOnes(l list) list {
 	return slices.DeleteFunc(slices.Clone(l), func(r api.Range) bool { return !span.Right(r) })
 }
 
-// lists are all lists of at most n of some ranges, each in any order and more than once.
-func lists(l list, n int) []list {
-	all := []list{nil}
-	longest := all
-	for range n {
-		var more []list
-		for _, m := range longest {
-			for _, r := range l {
-				more = append(more, append(slices.Clone(m), r))
-			}
-		}
-		all, longest = append(all, more...), more
-	}
-	return all
-}
-
 // drawn is a list of ranges by some edges, right or not, that hangs on a seed.
 func drawn(seed int, edges []string) list {
-	x := uint64(seed)*0x9E3779B97F4A7C15 + 1
-	roll := func(n int) int {
-		x = x*6364136223846793005 + 1442695040888963407
-		return int(x>>33) % n
-	}
+	roll := sample.Draw(seed)
 	var l list
 	for range roll(9) {
 		r := to(edges[roll(len(edges))], edges[roll(len(edges))])
@@ -86,20 +66,6 @@ func had(l list, texts []string) []bool {
 		in[i] = hasByWords(l, s)
 	}
 	return in
-}
-
-// listByWords is the right list, by edges of some texts, that has those of them that are in: no others stand between two of them but alike.
-func listByWords(in []bool, texts []string) list {
-	var l list
-	for i, s := range texts {
-		switch {
-		case in[i] && (i == 0 || !in[i-1]):
-			l = append(l, from(s))
-		case !in[i] && i > 0 && in[i-1]:
-			l[len(l)-1] = to(l[len(l)-1].Lo, s)
-		}
-	}
-	return l
 }
 
 // each is, text by text, what keep says of both.
@@ -438,8 +404,8 @@ func checkOne(t *testing.T, l list, texts []string) {
 			t.Fatalf("Has(%#v, %#v) = %t, want %t", l, s, got, in[i])
 		}
 	}
-	check(t, "Of", Of(l...), listByWords(in, texts), l)
-	check(t, "Not", Not(l), listByWords(each(in, in, func(a, _ bool) bool { return !a }), texts), l)
+	check(t, "Of", Of(l...), sample.List(in, texts), l)
+	check(t, "Not", Not(l), sample.List(each(in, in, func(a, _ bool) bool { return !a }), texts), l)
 }
 
 // checkTwo holds all that is asked of two lists against the chapter's words.
@@ -447,9 +413,9 @@ func checkTwo(t *testing.T, a, b list, texts []string) {
 	t.Helper()
 	inA, inB := had(a, texts), had(b, texts)
 	less := each(inA, inB, func(a, b bool) bool { return a && !b })
-	check(t, "Union", Union(a, b), listByWords(each(inA, inB, func(a, b bool) bool { return a || b }), texts), a, b)
-	check(t, "Meet", Meet(a, b), listByWords(each(inA, inB, func(a, b bool) bool { return a && b }), texts), a, b)
-	check(t, "Less", Less(a, b), listByWords(less, texts), a, b)
+	check(t, "Union", Union(a, b), sample.List(each(inA, inB, func(a, b bool) bool { return a || b }), texts), a, b)
+	check(t, "Meet", Meet(a, b), sample.List(each(inA, inB, func(a, b bool) bool { return a && b }), texts), a, b)
+	check(t, "Less", Less(a, b), sample.List(less, texts), a, b)
 	if got, want := Same(a, b), slices.Equal(inA, inB); got != want {
 		t.Fatalf("Same(%#v, %#v) = %t, want %t", a, b, got, want)
 	}
@@ -461,7 +427,7 @@ func checkTwo(t *testing.T, a, b list, texts []string) {
 // P8.1 and P8.2: Right, Has, Of and Not, as the words say, of all lists of up to three ranges, right or not, by four edges.
 func TestOneByWords(t *testing.T) {
 	texts := []string{"", "a", "a\x00", "b"}
-	for _, l := range lists(all(texts), 3) {
+	for _, l := range sample.Lists(all(texts), 3) {
 		checkOne(t, l, texts)
 	}
 }
@@ -469,7 +435,7 @@ func TestOneByWords(t *testing.T) {
 // P8.2 and P8.3: Union, Meet, Less, Same and Within, as the words say, of all pairs of lists of up to two ranges.
 func TestTwoByWords(t *testing.T) {
 	texts := []string{"", "a", "a\x00", "b"}
-	some := lists(append(rightOnes(all(texts)), api.Range{}, to("b", "a"), api.Range{Lo: "a", Hi: "b", Open: true}), 2)
+	some := sample.Lists(append(rightOnes(all(texts)), api.Range{}, to("b", "a"), api.Range{Lo: "a", Hi: "b", Open: true}), 2)
 	for _, a := range some {
 		for _, b := range some {
 			checkTwo(t, a, b, texts)
@@ -489,13 +455,7 @@ func TestLongerByWords(t *testing.T) {
 
 // P8.1 to P8.3: what is answered has just the texts that it should, also such as stand between the edges, and far behind them.
 func TestProbes(t *testing.T) {
-	var probes []string
-	for _, s := range edges() {
-		probes = append(probes, s, s+"\x00", s+"a", s+"\xff", s+long("\xff", 40))
-		if s != "" {
-			probes = append(probes, s[:len(s)-1], s[:len(s)-1]+string([]byte{s[len(s)-1] - 1}))
-		}
-	}
+	probes := sample.Near(edges())
 	for seed := range 2000 {
 		a, b := drawn(2*seed, edges()), drawn(2*seed+1, edges())
 		of, not, union, meet, less := Of(a...), Not(a), Union(a, b), Meet(a, b), Less(a, b)
@@ -512,7 +472,7 @@ func TestProbes(t *testing.T) {
 func TestRightOnce(t *testing.T) {
 	texts := []string{"", "\x00", "a", "a\x00", long("k", 17)}
 	var right []list
-	for _, l := range lists(rightOnes(all(texts)), 3) {
+	for _, l := range sample.Lists(rightOnes(all(texts)), 3) {
 		if Right(l) {
 			right = append(right, l)
 		}

@@ -1,7 +1,8 @@
-// Package sample has texts and ranges that the tests of several layers ask about.
+// Package sample has texts, ranges and lists that the tests of several layers ask about.
 package sample
 
 import (
+	"slices"
 	"strings"
 
 	"winnower/api"
@@ -50,4 +51,56 @@ func All(edges []string) []api.Range {
 		}
 	}
 	return l
+}
+
+// List is the right list, by edges of some texts in order, that has those of them that are in: no others stand between two of them but alike.
+func List(in []bool, texts []string) []api.Range {
+	var l []api.Range
+	for i, s := range texts {
+		switch {
+		case in[i] && (i == 0 || !in[i-1]):
+			l = append(l, From(s))
+		case !in[i] && i > 0 && in[i-1]:
+			l[len(l)-1] = To(l[len(l)-1].Lo, s)
+		}
+	}
+	return l
+}
+
+// Near are some texts, what stands near them, and what stands far behind, in order.
+func Near(texts []string) []string {
+	var l []string
+	for _, s := range texts {
+		l = append(l, s, s+"\x00", s+"a", s+"\xff", s+Long("\xff", 40))
+		if s != "" {
+			l = append(l, s[:len(s)-1], s[:len(s)-1]+string([]byte{s[len(s)-1] - 1}))
+		}
+	}
+	slices.Sort(l)
+	return slices.Compact(l)
+}
+
+// Lists are all lists of at most n of some things, each in any order and more than once.
+func Lists[T any](some []T, n int) [][]T {
+	all := [][]T{nil}
+	longest := all
+	for range n {
+		var more [][]T
+		for _, l := range longest {
+			for _, x := range some {
+				more = append(more, append(slices.Clone(l), x))
+			}
+		}
+		all, longest = append(all, more...), more
+	}
+	return all
+}
+
+// Draw answers numbers from 0 on, below what it is asked for: they hang on a seed alone.
+func Draw(seed int) func(n int) int {
+	x := uint64(seed)*0x9E3779B97F4A7C15 + 1
+	return func(n int) int {
+		x = x*6364136223846793005 + 1442695040888963407
+		return int(x>>33) % n
+	}
 }

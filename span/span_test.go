@@ -22,17 +22,9 @@ func edges() []string {
 	return l
 }
 
-// probes are texts of which ranges by those edges are asked, in order: the edges, what stands near them, and what stands far behind.
+// probes are texts of which ranges by those edges are asked, in order.
 func probes() []string {
-	var l []string
-	for _, s := range edges() {
-		l = append(l, s, s+"\x00", s+"a", s+"\xff", s+long("\xff", 40))
-		if s != "" {
-			l = append(l, s[:len(s)-1], s[:len(s)-1]+string([]byte{s[len(s)-1] - 1}))
-		}
-	}
-	slices.Sort(l)
-	return slices.Compact(l)
+	return sample.Near(edges())
 }
 
 // rightByWords is what the chapter says that a right range is.
