@@ -20,21 +20,16 @@ type (
 	list  = []api.Range
 )
 
-// What ranges and texts are made by here: the tests of several layers have it together.
-var to, from, long, wrong = sample.To, sample.From, sample.Long, sample.Wrong
-
-// What filters are made of here, by hand: the calls that build them are tested too.
+// What ranges, texts and nodes are made by here: the tests of several layers have it together.
 var (
-	all    = api.Node{Op: 1}
-	none   = api.Node{Op: 2}
-	turned = api.Node{Op: 6, Kids: 1}
+	to, from, long, wrong   = sample.To, sample.From, sample.Long, sample.Wrong
+	begins, between, behind = sample.Begins, sample.Between, sample.Behind
+	each, some              = sample.Each, sample.Some
+	grown, spoilt           = sample.Grown, sample.Spoilt
 )
 
-func begins(p string) api.Node       { return api.Node{Op: 3, Lo: p} }
-func between(lo, hi string) api.Node { return api.Node{Op: 4, Lo: lo, Hi: hi} }
-func behind(lo string) api.Node      { return api.Node{Op: 5, Lo: lo} }
-func each(kids int) api.Node         { return api.Node{Op: 7, Kids: kids} }
-func some(kids int) api.Node         { return api.Node{Op: 8, Kids: kids} }
+// The nodes that need no more than their kind.
+var all, none, turned = api.Node{Op: 1}, api.Node{Op: 2}, api.Node{Op: 6, Kids: 1}
 
 // times is a list of a node, n times, and other ones behind it.
 func times(n int, one api.Node, rest ...api.Node) nodes {
@@ -242,46 +237,9 @@ func TestOneNode(t *testing.T) {
 	}
 }
 
-// wrongNodes are nodes that no right filter has, wherever they stand.
-func wrongNodes() nodes {
-	l := nodes{
-		{},
-		// A Prefix of more than MaxKey bytes, or with a Hi.
-		begins(long("k", 17)), begins(long("\xff", 17)), begins(long("k", 18)), begins(long("k", 1000)), {Op: 3, Lo: "a", Hi: "b"}, {Op: 3, Hi: "a"}, {Op: 3, Hi: "\x00"},
-		// From an edge on, with a Hi, or from what is no edge.
-		{Op: 5, Lo: "a", Hi: "b"}, {Op: 5, Hi: "a"}, {Op: 5, Lo: "b", Hi: "a"}, {Op: 5, Lo: "a", Hi: "a"}, behind(long("k", 18)), behind(long("\xff", 18)), behind(long("k", 1000)),
-	}
-	for _, op := range []int{math.MinInt, -8, -1, 0, 9, 10, 255, 256, 257, 263, 1 << 32, 1<<32 + 1, 1<<32 + 7, math.MaxInt} {
-		l = append(l, api.Node{Op: op}, api.Node{Op: op, Kids: 1}, api.Node{Op: op, Kids: 2}, api.Node{Op: op, Lo: "a"}, api.Node{Op: op, Lo: "a", Hi: "b"})
-	}
-	for _, n := range []api.Node{all, none, begins("a"), begins(""), between("a", "b"), behind("a"), behind("")} {
-		for _, kids := range []int{math.MinInt, math.MinInt + 1, -2, -1, 1, 2, 31, 32, 33, 256, 1 << 32, math.MaxInt} {
-			n.Kids = kids
-			l = append(l, n)
-		}
-	}
-	for _, n := range []api.Node{all, none, turned, each(1), each(2), some(1), some(2)} {
-		for _, s := range []string{"a", "\x00", "\xff", " ", long("k", 17), long("k", 18)} {
-			l = append(l, api.Node{Op: n.Op, Kids: n.Kids, Lo: s}, api.Node{Op: n.Op, Kids: n.Kids, Hi: s}, api.Node{Op: n.Op, Kids: n.Kids, Lo: s, Hi: s + "b"})
-		}
-	}
-	for _, kids := range []int{math.MinInt, math.MinInt + 1, -32, -2, -1, 0, 33, 256, 257, 1 << 32, 1<<32 + 1, 1<<32 + 2, math.MaxInt - 1, math.MaxInt} {
-		l = append(l, api.Node{Op: 6, Kids: kids}, each(kids), some(kids))
-	}
-	for _, kids := range []int{2, 3, 31, 32} {
-		l = append(l, api.Node{Op: 6, Kids: kids})
-	}
-	for _, r := range wrong() {
-		if !r.Open {
-			l = append(l, between(r.Lo, r.Hi))
-		}
-	}
-	return l
-}
-
 // P9.1: a filter isn't right, if one of its nodes is none of the table, however many filters stand ahead of it and behind it.
 func TestWrongNode(t *testing.T) {
-	for _, n := range wrongNodes() {
+	for _, n := range sample.WrongNodes() {
 		if nodeByWords(n) {
 			t.Fatalf("%#v is right", n)
 		}
@@ -428,66 +386,6 @@ func TestListsByWords(t *testing.T) {
 	for _, l := range sample.Lists(nodes{begins("a"), behind("b"), turned, each(2), some(2)}, 6) {
 		checkWords(t, l)
 	}
-}
-
-// texts are what drawn filters ask for: all are edges, and those of at most MaxKey bytes are Prefixes too.
-func texts() []string {
-	return []string{"", "\x00", "\x00\x00", "a", "a\x00", "ab", "a\xff", "b", "b\x00", "c", "\x7f", "\x80", "\xff", "\xff\xff", long("k", 16), long("k", 17), long("\xff", 16), long("\xff", 17)}
-}
-
-// leaf is a right node without kids, that is drawn.
-func leaf(roll func(n int) int) api.Node {
-	l := texts()
-	lo, hi := l[roll(len(l))], l[roll(len(l))]
-	for _, n := range []api.Node{begins(lo), between(min(lo, hi), max(lo, hi)), behind(lo), between(lo, hi+"\x00")} {
-		if roll(3) == 0 && nodeByWords(n) {
-			return n
-		}
-	}
-	return []api.Node{all, none, begins("a"), behind("b"), between("a", "c")}[roll(5)]
-}
-
-// grown is a right filter of so many nodes, that is drawn.
-func grown(roll func(n int) int, size int) nodes {
-	if size == 1 {
-		return nodes{leaf(roll)}
-	}
-	if roll(4) == 0 {
-		return append(grown(roll, size-1), turned)
-	}
-	var l nodes
-	kids := 0
-	for left := size - 1; left > 0; kids++ {
-		n := 1 + roll(left)
-		l, left = append(l, grown(roll, n)...), left-n
-	}
-	return append(l, []api.Node{each(kids), some(kids)}[roll(2)])
-}
-
-// spoilt is a filter of some nodes, changed in one place.
-func spoilt(roll func(n int) int, l nodes) nodes {
-	l = slices.Clone(l)
-	i, s := roll(len(l)), texts()[roll(len(texts()))]
-	switch roll(8) {
-	case 0:
-		l[i].Op = roll(11)
-	case 1:
-		l[i].Kids += roll(5) - 2
-	case 2:
-		l[i].Kids = []int{math.MinInt, -1, 32, 33, math.MaxInt}[roll(5)]
-	case 3:
-		l[i].Lo = s
-	case 4:
-		l[i].Hi = s
-	case 5:
-		l = slices.Delete(l, i, i+1)
-	case 6:
-		l = slices.Insert(l, i, leaf(roll))
-	case 7:
-		j := roll(len(l))
-		l[i], l[j] = l[j], l[i]
-	}
-	return l
 }
 
 // P9.1 and P9.3: drawn filters of any size, and what comes of them by a change, as the words say.

@@ -1,4 +1,4 @@
-// Package sample has texts, ranges and lists that the tests of several layers ask about.
+// Package sample has texts, ranges, lists and filters that the tests of several layers ask about.
 package sample
 
 import (
