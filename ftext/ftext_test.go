@@ -23,6 +23,7 @@ var (
 	begins, between, behind = sample.Begins, sample.Between, sample.Behind
 	each, some              = sample.Each, sample.Some
 	grown, spoilt           = sample.Grown, sample.Spoilt
+	every, changed          = sample.Every, sample.Changed
 )
 
 // The nodes that need no more than their kind.
@@ -603,34 +604,6 @@ func TestPiecesByWords(t *testing.T) {
 	}
 }
 
-// changed calls f of a text of which one byte is gone, is another one, is one more, is doubled, or changed with the next one.
-func changed(s string, others string, f func(string)) {
-	for i := range len(s) + 1 {
-		for x := range len(others) {
-			f(s[:i] + others[x:x+1] + s[i:])
-			if i < len(s) {
-				f(s[:i] + others[x:x+1] + s[i+1:])
-			}
-		}
-		if i < len(s) {
-			f(s[:i] + s[i+1:])
-			f(s[:i] + s[i:i+1] + s[i:])
-		}
-		if i+1 < len(s) {
-			f(s[:i] + s[i+1:i+2] + s[i:i+1] + s[i+2:])
-		}
-	}
-}
-
-// every is each of the 256 bytes, once.
-func every() string {
-	var b []byte
-	for x := range 256 {
-		b = append(b, byte(x))
-	}
-	return string(b)
-}
-
 // P11.2 and P11.3: texts changed by any byte in one place, and by some in two, as the words say.
 func TestChangedByWords(t *testing.T) {
 	for _, c := range told {
@@ -646,16 +619,7 @@ func TestChangedByWords(t *testing.T) {
 // P11.2 and P11.3: texts of which a part is taken out, put in once more, or put in elsewhere, as the words say.
 func TestMovedByWords(t *testing.T) {
 	for _, c := range told {
-		for i := range len(c.s) + 1 {
-			for j := i; j <= len(c.s); j++ {
-				rest, part := c.s[:i]+c.s[j:], c.s[i:j]
-				checkText(t, rest)
-				checkText(t, part)
-				checkText(t, c.s[:j]+part+c.s[j:])
-				checkText(t, part+rest)
-				checkText(t, rest+part)
-			}
-		}
+		sample.Moved(c.s, func(s string) { checkText(t, s) })
 	}
 }
 

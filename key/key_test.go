@@ -6,27 +6,14 @@ import (
 	"testing"
 
 	"winnower/api"
+	"winnower/sample"
 )
+
+// What texts are made by here: the tests of several layers have it together.
+var eachOf, every = sample.EachOf, sample.Every
 
 // ends are the bytes that matter: the least and the greatest ones, and some between, of which some are no right UTF-8.
 const ends = "\x00\x01a\x7f\x80\xfe\xff"
-
-// eachOf goes through all texts of so many bytes out of some.
-func eachOf(n int, some string, f func(string)) {
-	b := make([]byte, n)
-	var fill func(int)
-	fill = func(i int) {
-		if i == n {
-			f(string(b))
-			return
-		}
-		for _, x := range []byte(some) {
-			b[i] = x
-			fill(i + 1)
-		}
-	}
-	fill(0)
-}
 
 // upTo are all texts of at most so many bytes out of some.
 func upTo(n int, some string) []string {
@@ -35,15 +22,6 @@ func upTo(n int, some string) []string {
 		eachOf(k, some, func(s string) { l = append(l, s) })
 	}
 	return l
-}
-
-// every is each of the 256 bytes, once.
-func every() string {
-	var b []byte
-	for x := range 256 {
-		b = append(b, byte(x))
-	}
-	return string(b)
 }
 
 // mixed is a text of n bytes that look mixed, the same each time.

@@ -6,7 +6,12 @@ import (
 	"strconv"
 	"strings"
 	"testing"
+
+	"winnower/sample"
 )
+
+// What texts are made by here: the tests of several layers have it together.
+var eachOf, every = sample.EachOf, sample.Every
 
 // told is what some texts are told as.
 var told = []struct{ s, w string }{
@@ -135,32 +140,6 @@ func splitByWords(line string) ([]string, bool) {
 		return words, true
 	}
 	return nil, false
-}
-
-// eachOf goes through all texts of so many bytes out of some.
-func eachOf(n int, some string, f func(string)) {
-	b := make([]byte, n)
-	var fill func(int)
-	fill = func(i int) {
-		if i == n {
-			f(string(b))
-			return
-		}
-		for _, x := range []byte(some) {
-			b[i] = x
-			fill(i + 1)
-		}
-	}
-	fill(0)
-}
-
-// every is each of the 256 bytes, once.
-func every() string {
-	var b []byte
-	for x := range 256 {
-		b = append(b, byte(x))
-	}
-	return string(b)
 }
 
 // mixed is a text of n bytes that look mixed, the same each time.
