@@ -17,94 +17,14 @@ type list = []api.Run
 // last is the greatest count.
 const last = 1 << 40
 
-// run is the run of the counts from one number to another.
-func run(from, to int) api.Run {
-	return api.Run{From: from, To: to}
-}
-
-// numbers are those at which an answer may turn, in order: counts and others.
-func numbers() []int {
-	return []int{
-		math.MinInt, math.MinInt + 1, -1 << 40, -2, -1, 0, 1, 2, 3, 4, 6, 255, 256, 1<<31 - 1, 1 << 31, 1 << 32, 1<<32 + 1,
-		last - 2, last - 1, last, last + 1, last + 2, 1 << 48, math.MaxInt - 1, math.MaxInt,
-	}
-}
-
-// runs are those from each of some numbers to each, right or not.
-func runs(numbers []int) list {
-	var l list
-	for _, from := range numbers {
-		for _, to := range numbers {
-			l = append(l, run(from, to))
-		}
-	}
-	return l
-}
-
-// wrong are runs that aren't right, each for another reason.
-func wrong() list {
-	return list{
-		{},
-		// From below 1.
-		run(0, 1), run(0, 5), run(0, last), run(-1, 1), run(-1, 5), run(-5, -1), run(-1, -1), run(-last, last), run(-last, 5),
-		run(math.MinInt, 1), run(math.MinInt, 5), run(math.MinInt, last), run(math.MinInt, math.MinInt), run(math.MinInt, -1), run(math.MinInt, 0),
-		// To below From.
-		run(1, 0), run(2, 1), run(9, 8), run(9, 1), run(9, 0), run(5, -1), run(5, -5), run(last, last-1), run(last, 1), run(1, math.MinInt), run(last, math.MinInt),
-		// To above the greatest count.
-		run(1, last+1), run(5, last+1), run(last, last+1), run(last-1, last+2), run(1, 1<<48), run(2, 1<<62), run(1, math.MaxInt), run(last, math.MaxInt),
-		// Both out of the counts.
-		run(0, 0), run(last+1, last+1), run(last+1, last+5), run(0, last+1), run(math.MaxInt, math.MaxInt), run(math.MaxInt-1, math.MaxInt), run(math.MinInt, math.MaxInt),
-		run(last+1, last), run(last+2, last+1), run(0, -1), run(math.MaxInt, math.MinInt), run(math.MaxInt, 0), run(math.MaxInt, 5),
-	}
-}
-
-// drawn is a list of runs by some numbers, right or not, that hangs on a draw.
-func drawn(roll func(int) int, numbers []int) list {
-	var l list
-	for range roll(9) {
-		r := run(numbers[roll(len(numbers))], numbers[roll(len(numbers))])
-		if r.From > r.To && roll(8) > 0 {
-			r.From, r.To = r.To, r.From
-		}
-		l = append(l, r)
-	}
-	return l
-}
-
-// rightRun is what the chapter says that a right run is.
-func rightRun(r api.Run) bool {
-	return r.From >= 1 && r.To >= r.From && r.To <= 1099511627776
-}
-
-// rightByWords is what the chapter says that a right list is.
-func rightByWords(l list) bool {
-	for i, r := range l {
-		if !rightRun(r) || i > 0 && r.From < l[i-1].To+2 {
-			return false
-		}
-	}
-	return true
-}
-
-// hasByWords is what the chapter says that a list has.
-func hasByWords(l list, n int) bool {
-	return slices.ContainsFunc(l, func(r api.Run) bool { return rightRun(r) && n >= r.From && n <= r.To })
-}
-
-// turns are the counts from which on some lists may have others than ahead of them, in order, 1 first.
-func turns(l ...list) []int {
-	points := []int{1}
-	for _, r := range slices.Concat(l...) {
-		if r.From >= 1 && r.From <= last {
-			points = append(points, r.From)
-		}
-		if r.To >= 1 && r.To < last {
-			points = append(points, r.To+1)
-		}
-	}
-	slices.Sort(points)
-	return slices.Compact(points)
-}
+// What runs are made by, and what the words say of them, here: the tests of several layers have it together.
+var (
+	run, runs, numbers     = sample.Run, sample.Runs, sample.Numbers
+	wrong, drawn           = sample.WrongRuns, sample.DrawnRuns
+	rightRun, rightByWords = sample.RightRun, sample.RightRuns
+	hasByWords, turns      = sample.HasCount, sample.Turns
+	listOf                 = sample.RunsOf
+)
 
 // had is which of some counts a list has.
 func had(l list, points []int) []bool {
@@ -122,24 +42,6 @@ func each(a, b []bool, keep func(a, b bool) bool) []bool {
 		in[i] = keep(a[i], b[i])
 	}
 	return in
-}
-
-// listOf is the right list that has those of some counts that are in, each with all behind it up to the next one.
-func listOf(in []bool, points []int) list {
-	var l list
-	for i, n := range points {
-		end := last
-		if i+1 < len(points) {
-			end = points[i+1] - 1
-		}
-		switch {
-		case in[i] && i > 0 && in[i-1]:
-			l[len(l)-1].To = end
-		case in[i]:
-			l = append(l, run(n, end))
-		}
-	}
-	return l
 }
 
 // ofByWords is the right list of what a list has.
