@@ -14,7 +14,7 @@ import (
 type list = []api.Range
 
 // What ranges are made by here: the tests of several layers have it together.
-var to, from, long, wrong, all = sample.To, sample.From, sample.Long, sample.Wrong, sample.All
+var to, from, long, wrong, all, hasByWords = sample.To, sample.From, sample.Long, sample.Wrong, sample.All, sample.HasText
 
 // edges are texts by which ranges begin and end, in order, the empty text first: some are too long for it.
 func edges() []string {
@@ -33,30 +33,7 @@ func rightOnes(l list) list {
 
 // drawn is a list of ranges by some edges, right or not, that hangs on a seed.
 func drawn(seed int, edges []string) list {
-	roll := sample.Draw(seed)
-	var l list
-	for range roll(9) {
-		r := to(edges[roll(len(edges))], edges[roll(len(edges))])
-		if r.Lo > r.Hi && roll(8) > 0 {
-			r.Lo, r.Hi = r.Hi, r.Lo
-		}
-		switch roll(24) {
-		case 0:
-			r.Open = true
-		case 1:
-			r.Hi, r.Open = "", true
-		}
-		l = append(l, r)
-	}
-	return l
-}
-
-// hasByWords is what the chapter says that a list has.
-func hasByWords(l list, s string) bool {
-	return slices.ContainsFunc(l, func(r api.Range) bool {
-		right := len(r.Lo) <= 17 && (r.Open && r.Hi == "" || !r.Open && len(r.Hi) <= 17 && r.Lo < r.Hi)
-		return right && s >= r.Lo && (r.Open || s < r.Hi)
-	})
+	return sample.DrawnRanges(sample.Draw(seed), edges)
 }
 
 // had is which of some texts a list has.

@@ -1,4 +1,4 @@
-// Package sample has texts, ranges, lists and filters that the tests of several layers ask about.
+// Package sample has texts, ranges, lists, filters, runs and sets of versions that the tests of several layers ask about.
 package sample
 
 import (
@@ -53,6 +53,48 @@ func All(edges []string) []api.Range {
 	return l
 }
 
+// RightRange is what the chapter of ranges says that a right one is.
+func RightRange(r api.Range) bool {
+	if len(r.Lo) > 17 {
+		return false
+	}
+	if r.Open {
+		return len(r.Hi) == 0
+	}
+	return len(r.Hi) <= 17 && r.Lo < r.Hi
+}
+
+// HasText is whether a list has a text, as the chapters of ranges say it.
+func HasText(l []api.Range, s string) bool {
+	return slices.ContainsFunc(l, func(r api.Range) bool {
+		return RightRange(r) && !(s < r.Lo) && (r.Open || s < r.Hi)
+	})
+}
+
+// DrawnRange is a range by some edges, right or not, that hangs on a draw.
+func DrawnRange(roll func(int) int, edges []string) api.Range {
+	r := To(edges[roll(len(edges))], edges[roll(len(edges))])
+	if r.Lo > r.Hi && roll(8) > 0 {
+		r.Lo, r.Hi = r.Hi, r.Lo
+	}
+	switch roll(24) {
+	case 0:
+		r.Open = true
+	case 1:
+		r.Hi, r.Open = "", true
+	}
+	return r
+}
+
+// DrawnRanges is a list of ranges by some edges, right or not, that hangs on a draw.
+func DrawnRanges(roll func(int) int, edges []string) []api.Range {
+	var l []api.Range
+	for range roll(9) {
+		l = append(l, DrawnRange(roll, edges))
+	}
+	return l
+}
+
 // List is the right list, by edges of some texts in order, that has those of them that are in: no others stand between two of them but alike.
 func List(in []bool, texts []string) []api.Range {
 	var l []api.Range
@@ -94,6 +136,21 @@ func Lists[T any](some []T, n int) [][]T {
 		all, longest = append(all, more...), more
 	}
 	return all
+}
+
+// Laid are copies of some lists, which all lie in one list, and that list: behind each one there is room, with something in it, and behind that room the next one.
+func Laid[T any](lists [][]T, between T) ([][]T, []T) {
+	var all []T
+	for _, l := range lists {
+		all = append(append(all, l...), between, between)
+	}
+	var rows [][]T
+	at := 0
+	for _, l := range lists {
+		rows = append(rows, all[at:at+len(l)])
+		at += len(l) + 2
+	}
+	return rows, all
 }
 
 // Draw answers numbers from 0 on, below what it is asked for: they hang on a seed alone.

@@ -10,7 +10,7 @@ import (
 )
 
 // What ranges are made by here: the tests of several layers have it together.
-var to, from, long, wrong, all = sample.To, sample.From, sample.Long, sample.Wrong, sample.All
+var to, from, long, wrong, all, rightByWords = sample.To, sample.From, sample.Long, sample.Wrong, sample.All, sample.RightRange
 
 // edges are texts by which ranges begin and end, in order: some are too long for it.
 func edges() []string {
@@ -27,23 +27,9 @@ func probes() []string {
 	return sample.Near(edges())
 }
 
-// rightByWords is what the chapter says that a right range is.
-func rightByWords(r api.Range) bool {
-	if len(r.Lo) > 17 {
-		return false
-	}
-	if r.Open {
-		return len(r.Hi) == 0
-	}
-	return len(r.Hi) <= 17 && r.Lo < r.Hi
-}
-
 // hasByWords is what the chapter says that a range has.
 func hasByWords(r api.Range, s string) bool {
-	if !rightByWords(r) {
-		return false
-	}
-	return !(s < r.Lo) && (r.Open || s < r.Hi)
+	return sample.HasText([]api.Range{r}, s)
 }
 
 // had are the places of the texts that a range has, of some.

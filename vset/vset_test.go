@@ -24,163 +24,23 @@ type vector = [16]int
 // last is the greatest count.
 const last = 1 << 40
 
-// What runs are made by here: the tests of counts have it together with these.
-var run, numbers = sample.Run, sample.Numbers
-
-// known is a replica with runs of its counts.
-func known(replica int, runs ...api.Run) api.Known {
-	return api.Known{Replica: replica, Runs: runs}
-}
-
-// one is a replica with one count.
-func one(replica, count int) api.Known {
-	return known(replica, run(count, count))
-}
-
-// ver is the count-th write of a replica.
-func ver(replica, count int) api.Version {
-	return api.Version{Replica: replica, Count: count}
-}
-
-// others are numbers that are no replica's.
-func others() []int {
-	return []int{math.MinInt, math.MinInt + 1, -1 << 32, -256, -17, -16, -2, -1, 0, 17, 18, 32, 255, 256, 257, 272, 1 << 32, 1<<32 + 1, 1<<32 + 16, last, math.MaxInt - 1, math.MaxInt}
-}
-
-// nothing are Known that have nothing, each for another reason.
-func nothing() set {
-	l := set{{}, known(1), known(2), known(16), {Replica: 2, Runs: list{}}}
-	for _, n := range others() {
-		l = append(l, known(n), one(n, 1), known(n, run(1, last)), known(n, run(1, 2), run(4, 9)))
-	}
-	for _, r := range sample.WrongRuns() {
-		l = append(l, known(1, r), known(2, r, r), known(16, r))
-	}
-	return append(l, known(2, sample.WrongRuns()...))
-}
-
-// bent are Known that aren't right, and have just 2.3 and 2.4.
-func bent() set {
-	l := set{
-		known(2, run(3, 3), run(4, 4)), known(2, run(4, 4), run(3, 3)), known(2, run(3, 4), run(3, 4)), known(2, run(3, 4), run(4, 4)), known(2, run(3, 4), run(3, 3)),
-		known(2, run(3, 3), run(3, 4)), known(2, run(4, 4), run(3, 4)), known(2, run(3, 3), run(4, 4), run(3, 3)),
-	}
-	for _, r := range sample.WrongRuns() {
-		l = append(l, known(2, r, run(3, 4)), known(2, run(3, 4), r), known(2, run(4, 4), r, run(3, 3)))
-	}
-	return l
-}
-
-// drawnSet is a set by some numbers, right or not, that hangs on a draw.
-func drawnSet(roll func(int) int, numbers []int) set {
-	var s set
-	for range roll(7) {
-		n := []int{1, 2, 3, 16, 1 + roll(16), others()[roll(len(others()))]}[roll(6)]
-		s = append(s, known(n, sample.DrawnRuns(roll, numbers)...))
-	}
-	return s
-}
-
-// drawnVersions are versions by some numbers, right or not, that hang on a draw.
-func drawnVersions(roll func(int) int, numbers []int) []api.Version {
-	var l []api.Version
-	for range roll(6) {
-		l = append(l, ver(roll(19)-1, numbers[roll(len(numbers))]))
-	}
-	return l
-}
-
-// equal is whether two sets are the same, in all their numbers.
-func equal(a, b set) bool {
-	return slices.EqualFunc(a, b, func(a, b api.Known) bool { return a.Replica == b.Replica && slices.Equal(a.Runs, b.Runs) })
-}
-
-// clone is a set that shares nothing with another one.
-func clone(s set) set {
-	var out set
-	for _, k := range s {
-		out = append(out, known(k.Replica, slices.Clone(k.Runs)...))
-	}
-	return out
-}
-
-// turnedRound is a set with its Known, and the runs of each, the last one first.
-func turnedRound(s set) set {
-	out := clone(s)
-	slices.Reverse(out)
-	for _, k := range out {
-		slices.Reverse(k.Runs)
-	}
-	return out
-}
-
-// rightVersion is what the chapter of versions says that a right one is.
-func rightVersion(v api.Version) bool {
-	return v.Replica >= 1 && v.Replica <= 16 && v.Count >= 1 && v.Count <= 1099511627776
-}
-
-// rightByWords is what the chapter says that a right set is.
-func rightByWords(s set) bool {
-	for i, k := range s {
-		if k.Replica < 1 || k.Replica > 16 || len(k.Runs) == 0 || !sample.RightRuns(k.Runs) {
-			return false
-		}
-		if slices.ContainsFunc(s[:i], func(ahead api.Known) bool { return ahead.Replica >= k.Replica }) {
-			return false
-		}
-	}
-	return true
-}
-
-// hasByWords is what the chapter says that a set has.
-func hasByWords(s set, v api.Version) bool {
-	return rightVersion(v) && slices.ContainsFunc(s, func(k api.Known) bool { return k.Replica == v.Replica && sample.HasCount(k.Runs, v.Count) })
-}
-
-// turns are the counts from which on some sets may have others than ahead of them, of whatever replica, in order, 1 first.
-func turns(l ...set) []int {
-	var runs list
-	for _, k := range slices.Concat(l...) {
-		runs = append(runs, k.Runs...)
-	}
-	return sample.Turns(runs)
-}
-
-// table is, replica by replica, which of some counts there are.
-type table [16][]bool
-
-// had is which of some counts of each replica a set has.
-func had(s set, points []int) table {
-	var in table
-	for i := range in {
-		for _, n := range points {
-			in[i] = append(in[i], hasByWords(s, ver(i+1, n)))
-		}
-	}
-	return in
-}
-
-// setOf is the right set of the versions of which keep says so, by whether they are in a, and in b.
-func setOf(a, b table, points []int, keep func(a, b bool) bool) set {
-	var s set
-	for i := range a {
-		in := make([]bool, len(points))
-		for j := range in {
-			in[j] = keep(a[i][j], b[i][j])
-		}
-		if runs := sample.RunsOf(in, points); len(runs) > 0 {
-			s = append(s, known(i+1, runs...))
-		}
-	}
-	return s
-}
-
-// ofByWords is the right set of what a set has.
-func ofByWords(s set) set {
-	points := turns(s)
-	in := had(s, points)
-	return setOf(in, in, points, func(in, _ bool) bool { return in })
-}
+// What sets are made by here: the tests of several layers have it together.
+var (
+	run, numbers     = sample.Run, sample.Numbers
+	known, one, ver  = sample.Known, sample.One, sample.Ver
+	others           = sample.NoReplicas
+	nothing, bent    = sample.Nothing, sample.Bent
+	equal, clone     = sample.EqualSets, sample.CloneSet
+	drawnSet         = sample.DrawnSet
+	drawnVersions    = sample.DrawnVersions
+	turnedRound      = sample.TurnedSet
+	rightVersion     = sample.RightVersion
+	rightByWords     = sample.RightSet
+	hasByWords       = sample.HasVersion
+	turns            = sample.SetTurns
+	setOf, ofByWords = sample.SetOf, sample.OwnSet
+	roomy, spoil     = sample.Roomy, sample.Spoil
+)
 
 // check holds a set that was answered against what is wanted, number by number.
 func check(t *testing.T, call string, got, want set, args ...any) {
@@ -258,14 +118,12 @@ func checkOne(t *testing.T, s set) {
 // checkTwo holds all that is asked of two sets against the chapter's words.
 func checkTwo(t *testing.T, a, b set) {
 	t.Helper()
-	points := turns(a, b)
-	inA, inB := had(a, points), had(b, points)
-	less := setOf(inA, inB, points, func(a, b bool) bool { return a && !b })
-	more := setOf(inA, inB, points, func(a, b bool) bool { return b && !a })
+	less := setOf(a, b, func(a, b bool) bool { return a && !b })
+	more := setOf(a, b, func(a, b bool) bool { return b && !a })
 	two{
 		a: a, b: b, less: less, more: more,
-		union: setOf(inA, inB, points, func(a, b bool) bool { return a || b }),
-		meet:  setOf(inA, inB, points, func(a, b bool) bool { return a && b }),
+		union: setOf(a, b, func(a, b bool) bool { return a || b }),
+		meet:  setOf(a, b, func(a, b bool) bool { return a && b }),
 	}.check(t)
 }
 
@@ -962,33 +820,6 @@ func calls() []func(a, b set, l []api.Version) set {
 		func(a, b set, _ []api.Version) set { return vset.Less(a, b) },
 		func(a, _ set, _ []api.Version) set { return vset.Less(a, nil) },
 	}
-}
-
-// roomy is a set whose runs are the first ones of a longer list, and the list: behind the runs of each there is room, and behind that room the runs of the next one.
-func roomy(s set) (set, list) {
-	var all list
-	for _, k := range s {
-		all = append(append(all, k.Runs...), run(70, 77), run(80, 88))
-	}
-	var out set
-	at := 0
-	for _, k := range s {
-		out = append(out, known(k.Replica, all[at:at+len(k.Runs)]...))
-		at += len(k.Runs) + 2
-	}
-	return out, all
-}
-
-// spoil writes over all of a set, and over what stands behind its lists.
-func spoil(s set) {
-	for i, k := range s {
-		for j := range k.Runs {
-			k.Runs[j] = run(90, 99)
-		}
-		_ = append(k.Runs, run(90, 99), run(90, 99))
-		s[i].Replica = 9
-	}
-	_ = append(s, one(9, 9), one(9, 9))
 }
 
 // handed are sets that the tests of what is handed in hand in, right ones and others.
