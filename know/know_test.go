@@ -32,12 +32,11 @@ var (
 	known, one, ver = sample.Known, sample.One, sample.Ver
 	nothing, bent   = sample.Nothing, sample.Bent
 	equal, clone    = sample.EqualSets, sample.CloneSet
+	piece, idle     = sample.Piece, sample.Idle
+	sameList        = sample.EqualPieces
+	copied, spoil   = sample.ClonePieces, sample.SpoilPieces
+	laid, drawnList = sample.LaidPieces, sample.DrawnPieces
 )
-
-// piece is a range with a set.
-func piece(r api.Range, s ...api.Known) api.Piece {
-	return api.Piece{Range: r, Set: s}
-}
 
 // everything are all texts.
 func everything() texts {
@@ -49,32 +48,6 @@ func edges() []string {
 	l := append(sample.Edges(), long("k", 18), long("\xff", 18))
 	slices.Sort(l)
 	return l
-}
-
-// idle are pieces that have nothing, each for another reason.
-func idle() list {
-	l := list{{}, piece(from("")), piece(to("a", "b")), {Range: from(""), Set: set{}}}
-	for _, r := range sample.Wrong() {
-		l = append(l, piece(r), piece(r, one(1, 1)), piece(r, known(2, run(1, last)), one(16, 7)))
-	}
-	for _, k := range nothing() {
-		l = append(l, piece(from(""), k), piece(to("a", "c"), k, k))
-	}
-	return append(l, piece(from(""), nothing()...), piece(api.Range{Lo: "a", Hi: "b", Open: true}, nothing()...))
-}
-
-// sameList is whether two lists are the same, in all their parts.
-func sameList(a, b list) bool {
-	return slices.EqualFunc(a, b, func(a, b api.Piece) bool { return a.Range == b.Range && equal(a.Set, b.Set) })
-}
-
-// copied is a list that shares nothing with another one.
-func copied(k list) list {
-	var out list
-	for _, p := range k {
-		out = append(out, piece(p.Range, clone(p.Set)...))
-	}
-	return out
 }
 
 // turnedRound is a list with its pieces, and the sets of each, the last one first.
@@ -90,23 +63,6 @@ func turnedRound(k list) list {
 // with is a list with some pieces more, at a place.
 func with(k list, i int, more ...api.Piece) list {
 	return slices.Insert(copied(k), i, more...)
-}
-
-// rightByWords is what the chapter says that right knowledge is.
-func rightByWords(k list) bool {
-	for i, p := range k {
-		if !sample.RightRange(p.Range) || len(p.Set) == 0 || !sample.RightSet(p.Set) {
-			return false
-		}
-		if i == 0 {
-			continue
-		}
-		ahead := k[i-1]
-		if ahead.Range.Open || ahead.Range.Hi > p.Range.Lo || ahead.Range.Hi == p.Range.Lo && equal(ahead.Set, p.Set) {
-			return false
-		}
-	}
-	return true
 }
 
 // knownOf are the Known of all pieces that have a text, as the chapter says it.
@@ -184,7 +140,7 @@ func check(t *testing.T, call string, got, want list, args ...any) {
 	if !sameList(got, want) {
 		t.Fatalf("%s of %#v = %#v, want %#v", call, args, got, want)
 	}
-	if !rightByWords(got) || !know.Right(got) {
+	if !sample.RightPieces(got) || !know.Right(got) {
 		t.Fatalf("%s of %#v = %#v, which isn't right", call, args, got)
 	}
 }
@@ -211,7 +167,7 @@ func checkAt(t *testing.T, k list, s string) {
 // checkOne holds all that is asked of one list against the chapter's words.
 func checkOne(t *testing.T, k list) {
 	t.Helper()
-	if got, want := know.Right(k), rightByWords(k); got != want {
+	if got, want := know.Right(k), sample.RightPieces(k); got != want {
 		t.Fatalf("Right(%#v) = %t, want %t", k, got, want)
 	}
 	want := ofByWords(k)
@@ -933,16 +889,6 @@ func TestRangesByWords(t *testing.T) {
 	}
 }
 
-// drawnList is a list by some texts and numbers, right or not, that hangs on a draw: its pieces have few sets between them.
-func drawnList(roll func(int) int, edges []string, numbers []int) list {
-	sets := []set{sample.DrawnSet(roll, numbers), vset.Of(sample.DrawnSet(roll, numbers)...), {one(1, 1)}, nil}
-	var k list
-	for range roll(7) {
-		k = append(k, piece(sample.DrawnRange(roll, edges), clone(sets[roll(len(sets))])...))
-	}
-	return k
-}
-
 // P15.1 to P15.3: drawn lists of more pieces, as the words say, by all edges and numbers that matter, and by few.
 func TestDrawnByWords(t *testing.T) {
 	small := []int{0, 1, 2, 3, 4}
@@ -1115,49 +1061,6 @@ func ask(x args) {
 	know.Within(x.a, x.b)
 }
 
-// place is a list whose pieces, whose Known and whose runs lie in three longer lists.
-type place struct {
-	k, pieces list
-	known     set
-	runs      []api.Run
-}
-
-// laid is a place with a copy of a list: behind all lists there is room, and something in it.
-func laid(k list) place {
-	var all set
-	for _, p := range k {
-		all = append(all, p.Set...)
-	}
-	all, runs := sample.Roomy(all)
-	var sets []set
-	at := 0
-	for _, p := range k {
-		sets = append(sets, all[at:at+len(p.Set)])
-		at += len(p.Set)
-	}
-	rows, known := sample.Laid(sets, one(8, 8))
-	var pieces list
-	for i, p := range k {
-		pieces = append(pieces, piece(p.Range, rows[i]...))
-	}
-	l, pieces := sample.Laid([]list{pieces}, piece(to("over", "written"), one(8, 8)))
-	return place{l[0], pieces, known, runs}
-}
-
-// same is whether two places are the same, behind all lists too.
-func (p place) same(q place) bool {
-	return sameList(p.pieces, q.pieces) && equal(p.known, q.known) && slices.Equal(p.runs, q.runs)
-}
-
-// spoil writes over all of a list, and over what stands behind its lists.
-func spoil(k list) {
-	for i, p := range k {
-		sample.Spoil(p.Set)
-		k[i].Range = to("spoilt", "z")
-	}
-	_ = append(k, piece(from("spoilt"), one(9, 9)))
-}
-
 // handed are lists that the tests of what is handed in hand in, right ones and others.
 func handed() []list {
 	s, more, other := known(1, run(1, 3), run(5, 6)), known(1, run(1, 4)), known(2, run(5, 7), run(1, 2), run(0, 4))
@@ -1181,13 +1084,13 @@ func TestHandedIn(t *testing.T) {
 			keptRuns, keptL, keptV := slices.Clone(runs), slices.Clone(l), slices.Clone(v)
 			for n := range len(a) + 1 {
 				for m := range n + 1 {
-					x := args{p.k[m:n], q.k[:min(n, len(q.k))], l[:4], s, v[:3]}
+					x := args{p.List[m:n], q.List[:min(n, len(q.List))], l[:4], s, v[:3]}
 					ask(x)
 					for i, call := range calls() {
 						got, again := call(x), call(x)
 						want := copied(got)
 						spoil(got)
-						if !p.same(keptP) || !q.same(keptQ) || !equal(s, a[0].Set) || !slices.Equal(runs, keptRuns) || !slices.Equal(l, keptL) || !slices.Equal(v, keptV) {
+						if !p.Same(keptP) || !q.Same(keptQ) || !equal(s, a[0].Set) || !slices.Equal(runs, keptRuns) || !slices.Equal(l, keptL) || !slices.Equal(v, keptV) {
 							t.Fatalf("call %d of those from %d to %d of %#v and %#v: what was handed in is another one", i, m, n, a, b)
 						}
 						if !sameList(again, want) {
@@ -1206,12 +1109,12 @@ func TestAnswersOwn(t *testing.T) {
 		for i, call := range calls() {
 			p, q := laid(a), laid(handed()[0])
 			s, runs := sample.Roomy(a[0].Set)
-			x := args{p.k, q.k, texts{to("b", "d"), from("x"), to("a", "b")}, s, versions{ver(2, 4), ver(0, 1), ver(16, last), ver(1, 4)}}
+			x := args{p.List, q.List, texts{to("b", "d"), from("x"), to("a", "b")}, s, versions{ver(2, 4), ver(0, 1), ver(16, last), ver(1, 4)}}
 			got := call(x)
 			want := copied(got)
-			for _, r := range []place{p, q} {
-				clear(r.runs)
-				spoil(r.k)
+			for _, r := range []sample.Place{p, q} {
+				clear(r.Runs)
+				spoil(r.List)
 			}
 			clear(runs)
 			sample.Spoil(s)
@@ -1241,15 +1144,15 @@ func TestAtOwn(t *testing.T) {
 	for _, k := range handed() {
 		for _, s := range []string{"", "a", "b", "c", "x"} {
 			p, kept := laid(k), laid(k)
-			got := know.At(p.k, s)
+			got := know.At(p.List, s)
 			want := clone(got)
 			sample.Spoil(got)
-			if !p.same(kept) {
+			if !p.Same(kept) {
 				t.Fatalf("At(%#v, %#v): what was handed in is another one", k, s)
 			}
-			got = know.At(p.k, s)
-			clear(p.runs)
-			spoil(p.k)
+			got = know.At(p.List, s)
+			clear(p.Runs)
+			spoil(p.List)
 			if !equal(got, want) {
 				t.Fatalf("At(%#v, %#v) became %v, was %v", k, s, got, want)
 			}
