@@ -32,72 +32,12 @@ var (
 
 // ofSets is what is asked of sets.
 func ofSets() sample.Code[api.Known] {
-	return sample.Code[api.Known]{
-		Name: "Set", Put: kcode.Set, Read: kcode.ReadSet, Most: 16, Right: setFits, Bytes: knownBytes, Next: nextKnown,
-		Same: sample.EqualSets, Spoil: sample.Spoil, Lay: laySet,
-	}
-}
-
-// setFits is whether a set has bytes.
-func setFits(s set) bool {
-	return sample.RightSet(s) && !slices.ContainsFunc(s, func(k api.Known) bool { return len(k.Runs) > 4096 })
-}
-
-// knownBytes are the bytes of a replica's counts, right or not; of a number below 0 there are none.
-func knownBytes(k api.Known) []byte {
-	b := slices.Concat(number(k.Replica), number(len(k.Runs)))
-	end := 0
-	for _, r := range k.Runs {
-		b = append(append(b, number(r.From-end)...), number(r.To-r.From)...)
-		end = r.To
-	}
-	return b
-}
-
-// nextKnown is the Known that is read next.
-func nextKnown(w *sample.Words) api.Known {
-	replica, end := w.Number(1, 16), 0
-	return known(replica, sample.Several(w, 4096, func(w *sample.Words) api.Run {
-		from := end + w.Number(0, 1<<48)
-		end = from + w.Number(0, 1<<48)
-		return run(from, end)
-	})...)
-}
-
-// laySet copies a set to where all its lists have room.
-func laySet(s set) (set, func() bool) {
-	l, kept := layPieces(list{piece(from(""), s...)})
-	return l[0].Set, kept
+	return sample.SetCode("Set", kcode.Set, kcode.ReadSet)
 }
 
 // ofPieces is what is asked of knowledge.
 func ofPieces() sample.Code[api.Piece] {
-	return sample.Code[api.Piece]{
-		Name: "Know", Put: kcode.Know, Read: kcode.ReadKnow, Most: 4096, Right: knowFits, Bytes: pieceBytes, Next: nextPiece,
-		Same: sample.EqualPieces, Spoil: sample.SpoilPieces, Lay: layPieces,
-	}
-}
-
-// knowFits is whether knowledge of no more pieces than may be has bytes.
-func knowFits(k list) bool {
-	return sample.RightPieces(k) && !slices.ContainsFunc(k, func(p api.Piece) bool { return !setFits(p.Set) })
-}
-
-// pieceBytes are the bytes of a piece, right or not.
-func pieceBytes(p api.Piece) []byte {
-	return slices.Concat(sample.RangeBytes(p.Range), ofSets().All(p.Set))
-}
-
-// nextPiece is the piece that is read next.
-func nextPiece(w *sample.Words) api.Piece {
-	r := w.Range()
-	return piece(r, sample.Several(w, 16, nextKnown)...)
-}
-
-// layPieces copies knowledge to where all its lists have room.
-func layPieces(k list) (list, func() bool) {
-	p, kept := sample.LaidPieces(k), sample.LaidPieces(k)
-	return p.List, func() bool { return p.Same(kept) }
+	return sample.PieceCode("Know", kcode.Know, kcode.ReadKnow)
 }
 
 // all is a list of pieces of all texts, with a set.

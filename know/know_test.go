@@ -38,6 +38,14 @@ var (
 	laid, drawnList = sample.LaidPieces, sample.DrawnPieces
 )
 
+// What the chapter says that lists have: the tests of several layers have it together.
+var (
+	knownOf, hasByWords    = sample.KnownOf, sample.HasKnown
+	rangesOf, turns        = sample.RangesOf, sample.TextTurns
+	listOf                 = sample.PiecesBy
+	ofByWords, lessByWords = sample.OwnPieces, sample.LessPieces
+)
+
 // everything are all texts.
 func everything() texts {
 	return texts{from("")}
@@ -63,75 +71,6 @@ func turnedRound(k list) list {
 // with is a list with some pieces more, at a place.
 func with(k list, i int, more ...api.Piece) list {
 	return slices.Insert(copied(k), i, more...)
-}
-
-// knownOf are the Known of all pieces that have a text, as the chapter says it.
-func knownOf(k list, s string) set {
-	var all set
-	for _, p := range k {
-		if sample.HasText(texts{p.Range}, s) {
-			all = append(all, p.Set...)
-		}
-	}
-	return all
-}
-
-// hasByWords is what the chapter says that knowledge has.
-func hasByWords(k list, s string, v api.Version) bool {
-	return slices.ContainsFunc(k, func(p api.Piece) bool { return sample.HasText(texts{p.Range}, s) && sample.HasVersion(p.Set, v) })
-}
-
-// rangesOf are the ranges of all pieces.
-func rangesOf(l ...list) texts {
-	var out texts
-	for _, p := range slices.Concat(l...) {
-		out = append(out, p.Range)
-	}
-	return out
-}
-
-// turns are the texts from which on some ranges may have others than ahead of them, in order, the empty text first.
-func turns(l ...texts) []string {
-	out := []string{""}
-	for _, r := range slices.Concat(l...) {
-		if sample.RightRange(r) {
-			out = append(out, r.Lo, r.Hi)
-		}
-	}
-	slices.Sort(out)
-	return slices.Compact(out)
-}
-
-// listOf is the right list that has of each of some texts, and of all behind it up to the next one, a right set.
-func listOf(texts []string, at func(s string) set) list {
-	var sets []set
-	for _, s := range texts {
-		sets = append(sets, at(s))
-	}
-	var k list
-	for i, s := range texts {
-		if len(sets[i]) == 0 || i > 0 && equal(sets[i-1], sets[i]) {
-			continue
-		}
-		r := from(s)
-		if n := slices.IndexFunc(sets[i:], func(other set) bool { return !equal(other, sets[i]) }); n > 0 {
-			r = to(s, texts[i+n])
-		}
-		k = append(k, piece(r, sets[i]...))
-	}
-	return k
-}
-
-// ofByWords is the right list of what knowledge has.
-func ofByWords(k list) list {
-	return listOf(turns(rangesOf(k)), func(s string) set { return sample.OwnSet(knownOf(k, s)) })
-}
-
-// lessByWords is the right list of what a has, and b hasn't.
-func lessByWords(a, b list) list {
-	return listOf(turns(rangesOf(a, b)), func(s string) set {
-		return sample.SetOf(knownOf(a, s), knownOf(b, s), func(a, b bool) bool { return a && !b })
-	})
 }
 
 // check holds a list that was answered against what is wanted, part by part.
