@@ -1,4 +1,4 @@
-// Package sample has texts, ranges, lists, filters, runs, sets of versions, knowledge and bytes that the tests of several layers ask about.
+// Package sample has texts, ranges, lists, filters, runs, sets of versions, knowledge, items and bytes that the tests of several layers ask about.
 package sample
 
 import (
