@@ -33,7 +33,9 @@ var all, none, turned = api.Node{Op: 1}, api.Node{Op: 2}, api.Node{Op: 6, Kids: 
 // ofRanges is what is asked of lists of ranges.
 func ofRanges() sample.Code[api.Range] {
 	return sample.Code[api.Range]{
-		Name: "Ranges", Put: fcode.Ranges, Read: fcode.ReadRanges, Most: 4096, Right: ranges.Right, Bytes: sample.RangeBytes, Next: (*sample.Words).Range,
+		Name: "Ranges", Put: fcode.Ranges, Read: fcode.ReadRanges, Most: 4096, Right: ranges.Right,
+		All:  func(l list) []byte { return sample.ListBytes(l, sample.RangeBytes) },
+		Next: func(w *sample.Words) list { return sample.Several(w, 4096, (*sample.Words).Range) },
 		Same: slices.Equal[list], Spoil: sample.SpoilOne[api.Range], Lay: func(l list) (list, func() bool) { return sample.LayOne(l, to("over", "written")) },
 	}
 }
@@ -41,7 +43,9 @@ func ofRanges() sample.Code[api.Range] {
 // ofNodes is what is asked of filters.
 func ofNodes() sample.Code[api.Node] {
 	return sample.Code[api.Node]{
-		Name: "Filter", Put: fcode.Filter, Read: fcode.ReadFilter, Most: 32, Right: filter.Right, Bytes: nodeBytes, Next: nextNode,
+		Name: "Filter", Put: fcode.Filter, Read: fcode.ReadFilter, Most: 32, Right: filter.Right,
+		All:  func(l nodes) []byte { return sample.ListBytes(l, nodeBytes) },
+		Next: func(w *sample.Words) nodes { return sample.Several(w, 32, nextNode) },
 		Same: slices.Equal[nodes], Spoil: sample.SpoilOne[api.Node], Lay: func(l nodes) (nodes, func() bool) { return sample.LayOne(l, begins("overwritten")) },
 	}
 }

@@ -30,6 +30,15 @@ func RangeBytes(r api.Range) []byte {
 	return slices.Concat(TextBytes(r.Lo), []byte{0}, TextBytes(r.Hi))
 }
 
+// ListBytes are the bytes of a list: how many things there are, and of each.
+func ListBytes[T any](l []T, bytesOf func(x T) []byte) []byte {
+	b := NumberBytes(len(l))
+	for _, x := range l {
+		b = append(b, bytesOf(x)...)
+	}
+	return b
+}
+
 // Made are bytes, made of numbers and texts: numbers as bytes of one each, a text as its bytes alone, bytes as they are.
 func Made(parts ...any) []byte {
 	var b []byte
@@ -111,7 +120,12 @@ func (w *Words) Number(lo, hi int) int {
 
 // Edge reads a text of at most MaxEdge bytes.
 func (w *Words) Edge() string {
-	n := w.Number(0, 17)
+	return w.Text(17)
+}
+
+// Text reads a text of at most so many bytes.
+func (w *Words) Text(most int) string {
+	n := w.Number(0, most)
 	if w.e == api.OK && n > len(w.left) {
 		w.e = api.ErrShort
 	}

@@ -22,9 +22,9 @@ type Code[T any] struct {
 	// Most is how many things a list may have, and Right whether one of no more may be put, as the words say.
 	Most  int
 	Right func(l []T) bool
-	// Bytes are those of a thing, right or not, and Next reads one, as the words say.
-	Bytes func(x T) []byte
-	Next  func(w *Words) T
+	// All are the bytes of a list, right or not, and Next reads one, right or not, as the words say.
+	All  func(l []T) []byte
+	Next func(w *Words) []T
 	// Same is whether two lists are the same, in all their parts.
 	Same func(a, b []T) bool
 	// Lay copies a list to where its lists have room with something in it, and answers what tells whether all there is as it was.
@@ -46,25 +46,16 @@ func spoilBytes(b []byte) {
 	_ = append(b, 1, 2, 3)
 }
 
-// All are the bytes of a list, right or not: how many there are, and of each.
-func (c Code[T]) All(l []T) []byte {
-	b := NumberBytes(len(l))
-	for _, x := range l {
-		b = append(b, c.Bytes(x)...)
-	}
-	return b
-}
-
 // byWords is what is read, and what is told, as the words say it.
 func (c Code[T]) byWords(b []byte) ([]T, api.Errno) {
 	w := &Words{left: b}
-	l := Several(w, c.Most, c.Next)
+	l := c.Next(w)
 	switch {
 	case w.e != api.OK:
 		return nil, w.e
 	case len(w.left) > 0:
 		return nil, api.ErrLong
-	case !c.Right(l):
+	case !c.Right(l) || !bytes.Equal(c.All(l), b):
 		return nil, api.ErrForm
 	}
 	return l, api.OK
